@@ -11,8 +11,8 @@ func roomy(lines []impl.FlowLine) []impl.FlowLine {
 	list := make([]impl.FlowLine, 0, len(lines)+3)
 	for _, line := range lines {
 		args := append(make([]string, 0, len(line.Args)+4), line.Args...)
-		for i := range args[len(args):cap(args)] {
-			args[:cap(args)][len(args)+i] = "keep"
+		for i := len(args); i < cap(args); i++ {
+			args[:cap(args)][i] = "keep"
 		}
 		line.Args = args
 		list = append(list, line)
