@@ -338,19 +338,29 @@ func writeLine(line FlowLine) string {
 		words = append(words, line.Args[0], line.Name, line.Args[1])
 		return strings.Join(words, " ")
 	}
-	for _, word := range []string{line.To, line.Name} {
-		if word != "" {
-			words = append(words, word)
-		}
-	}
+	words = addFilled(words, line.To, line.Name)
 	if line.Kind == FlowGet && len(line.Args) > 0 {
 		words = append(words, forWord)
 	}
 	words = append(words, line.Args...)
-	if line.Undo != "" {
-		words = append(words, undoWord, line.Undo)
+	return strings.Join(addUndo(words, line.Undo), " ")
+}
+
+// addFilled adds those of more that are not empty.
+func addFilled(words []string, more ...string) []string {
+	for _, word := range more {
+		if word != "" {
+			words = append(words, word)
+		}
 	}
-	return strings.Join(words, " ")
+	return words
+}
+
+func addUndo(words []string, undo string) []string {
+	if undo == "" {
+		return words
+	}
+	return append(words, undoWord, undo)
 }
 
 func sameLine(a, b FlowLine) bool {

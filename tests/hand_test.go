@@ -91,6 +91,7 @@ func TestLinesThatNoTextIsReadAs(t *testing.T) {
 		if text := impl.FlowPrint(lines); text != "" {
 			t.Errorf("case %d, %+v: written as %q", i, line, text)
 		}
+		stepsIfRight(t, lines)
 	}
 }
 
@@ -162,6 +163,7 @@ func TestSeveralCodesOfOneLine(t *testing.T) {
 		if text := impl.FlowPrint(c.lines); text != "" {
 			t.Errorf("case %d: written as %q", i, text)
 		}
+		stepsIfRight(t, c.lines)
 	}
 }
 

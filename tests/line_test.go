@@ -2,6 +2,7 @@ package tests
 
 import (
 	"reflect"
+	"slices"
 	"strings"
 	"testing"
 
@@ -199,13 +200,5 @@ func sameLine(a, b impl.FlowLine) bool {
 }
 
 func sameLines(a, b []impl.FlowLine) bool {
-	if len(a) != len(b) {
-		return false
-	}
-	for i := range a {
-		if !sameLine(a[i], b[i]) {
-			return false
-		}
-	}
-	return true
+	return slices.EqualFunc(a, b, sameLine)
 }

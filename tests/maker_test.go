@@ -208,3 +208,36 @@ func cloneLines(lines []impl.FlowLine) []impl.FlowLine {
 	}
 	return list
 }
+
+// right makes a workflow of which nothing is wrong: one that stands well, mended as long as FlowCheck tells a fault.
+func (m *maker) right(most int) []impl.FlowLine {
+	lines := cloneLines(m.workflow(most))
+	for {
+		found := impl.FlowCheck(lines)
+		switch found.Code {
+		case 0:
+			return lines
+		case impl.FlowTooLong:
+			lines = cloneLines(m.workflow(most))
+		case impl.FlowNoReturn:
+			lines = append(lines, m.leaver())
+		case impl.FlowUnknown:
+			args := lines[found.Line-1].Args
+			args[m.Intn(len(args))] = m.of("1", "-9999", "7")
+		case impl.FlowTwice:
+			lines = withoutLine(lines, found.Line)
+		default:
+			lines = withoutLine(lines, found.Line-1)
+		}
+	}
+}
+
+// withoutLine takes out a line of lines that stand well, with its block, if it opens one.
+func withoutLine(lines []impl.FlowLine, place int) []impl.FlowLine {
+	last := place
+	switch lines[place].Kind {
+	case impl.FlowIf, impl.FlowPatch, impl.FlowWhile, impl.FlowBoth:
+		_, last = (&ways{lines: lines}).parts(place)
+	}
+	return append(lines[:place:place], lines[last+1:]...)
+}

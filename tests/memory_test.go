@@ -52,6 +52,8 @@ func TestNothingIsWrittenIntoLines(t *testing.T) {
 		list := roomy(lines)
 		impl.FlowCheck(list)
 		impl.FlowPrint(list)
+		impl.FlowMake(list)
+		impl.FlowShow(list)
 		if !isRoomyOf(list, lines) {
 			t.Fatalf("%+v is changed", lines)
 		}
@@ -81,5 +83,37 @@ func TestEveryAnswerIsNewMemory(t *testing.T) {
 	again, found := impl.FlowParse(text)
 	if found != fault(0, 0) || !sameLines(again, kept) {
 		t.Errorf("another answer is changed: %+v", again)
+	}
+}
+
+func TestStepsAreNewMemory(t *testing.T) {
+	lines := linesOf(t, "workflow w a b c\ndo d pay a b c undo back\nlet e add a b\nget f go for a\nif a less b\nelse\nend\nwhile a less c\nend\nboth\nsleep a\nand\nsleep b\nend\npatch p\nreturn a\nend\nnext a b c")
+	kept := cloneLines(lines)
+	want := modelSteps(kept)
+	steps, ok := impl.FlowMake(lines)
+	if !ok || !sameSteps(steps, want) {
+		t.Fatalf("%v %+v", ok, steps)
+	}
+	// Each list is filled, its spare room, too; no other one, and no line, may be changed by that.
+	for i := range steps {
+		args := steps[i].Args[:cap(steps[i].Args)]
+		for j := range args {
+			args[j] = "filled"
+		}
+		if !sameSteps(steps[i+1:], want[i+1:]) || !sameLines(lines, kept) {
+			t.Errorf("step %d shares memory", i)
+		}
+	}
+	clear(steps[:cap(steps)])
+	again, ok := impl.FlowMake(lines)
+	if !ok || !sameSteps(again, want) {
+		t.Errorf("another answer is changed: %+v", again)
+	}
+	// Nor do steps change when lines do.
+	for i := range lines {
+		clear(lines[i].Args)
+	}
+	if !sameSteps(again, want) {
+		t.Errorf("steps change with lines: %+v", again)
 	}
 }

@@ -100,12 +100,17 @@ func modelStanding(shape string) impl.FlowFault {
 	return fault(len(shape)+1, impl.FlowNoReturn)
 }
 
-func checkShape(t *testing.T, shape string) {
-	t.Helper()
+func linesOfShape(shape string) []impl.FlowLine {
 	lines := []impl.FlowLine{{Kind: impl.FlowHead, Name: "w"}}
 	for i := range shape {
 		lines = append(lines, shapes[shape[i]])
 	}
+	return lines
+}
+
+func checkShape(t *testing.T, shape string) {
+	t.Helper()
+	lines := linesOfShape(shape)
 	if got, want := impl.FlowCheck(lines), modelStanding(shape); got != want {
 		t.Errorf("%s: %+v, not %+v", shape, got, want)
 	}

@@ -36,6 +36,7 @@ func textIfRight(t *testing.T, lines []impl.FlowLine) {
 	if (found.Code == 0) != (text != "") {
 		t.Errorf("%+v: %+v, but written as %q", lines, found, text)
 	}
+	stepsIfRight(t, lines)
 	if text == "" {
 		return
 	}
