@@ -64,26 +64,15 @@ type lineForm struct {
 	read func(words []string) (FlowLine, bool)
 }
 
-// lineForms has the form of each kind of line at its place; no line begins with the empty word of place 0.
+// lineForms has the form of each kind of line at its place; answers are worked out by wordOf and readBehind, not by it.
 var lineForms [FlowNext + 1]lineForm
 
 func init() {
-	lineForms = [...]lineForm{
-		FlowHead:   {"workflow", readHead},
-		FlowLet:    {"let", readLet},
-		FlowDo:     {"do", readDo},
-		FlowSleep:  {"sleep", readOperand},
-		FlowGet:    {"get", readGet},
-		FlowIf:     {"if", readTest},
-		FlowElse:   {"else", readNothing},
-		FlowWhile:  {"while", readTest},
-		FlowBoth:   {"both", readNothing},
-		FlowAnd:    {"and", readNothing},
-		FlowEnd:    {"end", readNothing},
-		FlowReturn: {"return", readOperand},
-		FlowFail:   {"fail", readOperand},
-		FlowPatch:  {"patch", readPatch},
-		FlowNext:   {"next", readNext},
+	for kind := range lineForms {
+		lineForms[kind] = lineForm{
+			word: wordOf(kind),
+			read: func(words []string) (FlowLine, bool) { return readBehind(kind, words) },
+		}
 	}
 }
 
@@ -111,7 +100,13 @@ func FlowPrint(lines []FlowLine) string {
 	if FlowCheck(lines).Code != 0 {
 		return ""
 	}
+	// The forms tell how much room the text takes at least; nothing that is written hangs on them.
+	room := 0
+	for _, line := range lines {
+		room += len(lineForms[line.Kind].word) + 1
+	}
 	var text strings.Builder
+	text.Grow(room)
 	for _, line := range lines {
 		text.WriteString(writeLine(line))
 		text.WriteByte('\n')
@@ -157,17 +152,84 @@ func splitWords(row string) []string {
 	return words
 }
 
-// readLine reads one word or more as a line.
-func readLine(words []string) (FlowLine, bool) {
-	for kind, form := range lineForms {
-		if form.word != words[0] {
-			continue
+// wordOf is the word that lines of a kind begin with, empty if there is no such kind.
+func wordOf(kind int) string {
+	switch kind {
+	case FlowHead:
+		return "workflow"
+	case FlowLet:
+		return "let"
+	case FlowDo:
+		return "do"
+	case FlowSleep:
+		return "sleep"
+	case FlowGet:
+		return "get"
+	case FlowIf:
+		return "if"
+	case FlowElse:
+		return "else"
+	case FlowWhile:
+		return "while"
+	case FlowBoth:
+		return "both"
+	case FlowAnd:
+		return "and"
+	case FlowEnd:
+		return "end"
+	case FlowReturn:
+		return "return"
+	case FlowFail:
+		return "fail"
+	case FlowPatch:
+		return "patch"
+	case FlowNext:
+		return "next"
+	}
+	return ""
+}
+
+// kindOfWord is the kind of the lines that begin with a word, 0 if there is none.
+func kindOfWord(word string) int {
+	for kind := FlowHead; kind <= FlowNext; kind++ {
+		if wordOf(kind) == word {
+			return kind
 		}
-		line, ok := form.read(words[1:])
-		line.Kind = kind
-		return line, ok
+	}
+	return 0
+}
+
+// readBehind reads the words behind the first one of a line of a kind.
+func readBehind(kind int, words []string) (FlowLine, bool) {
+	switch kind {
+	case FlowHead:
+		return readHead(words)
+	case FlowLet:
+		return readLet(words)
+	case FlowDo:
+		return readDo(words)
+	case FlowGet:
+		return readGet(words)
+	case FlowIf, FlowWhile:
+		return readTest(words)
+	case FlowElse, FlowBoth, FlowAnd, FlowEnd:
+		return readNothing(words)
+	case FlowSleep, FlowReturn, FlowFail:
+		return readOperand(words)
+	case FlowPatch:
+		return readPatch(words)
+	case FlowNext:
+		return readNext(words)
 	}
 	return FlowLine{}, false
+}
+
+// readLine reads one word or more as a line.
+func readLine(words []string) (FlowLine, bool) {
+	kind := kindOfWord(words[0])
+	line, ok := readBehind(kind, words[1:])
+	line.Kind = kind
+	return line, ok
 }
 
 func readHead(words []string) (FlowLine, bool) {
@@ -333,7 +395,7 @@ func isBranch(line FlowLine) bool {
 
 // writeLine writes a line of a kind that is there, of FlowIf and FlowWhile with two of Args.
 func writeLine(line FlowLine) string {
-	words := []string{lineForms[line.Kind].word}
+	words := []string{wordOf(line.Kind)}
 	if isBranch(line) {
 		words = append(words, line.Args[0], line.Name, line.Args[1])
 		return strings.Join(words, " ")

@@ -91,6 +91,7 @@ func TestHeads(t *testing.T) {
 		"workflow w c b a":           {Kind: impl.FlowHead, Name: "w", Args: []string{"c", "b", "a"}},
 		"workflow w w":               {Kind: impl.FlowHead, Name: "w", Args: []string{"w"}},
 		"workflow workflow undo":     {Kind: impl.FlowHead, Name: "workflow", Args: []string{"undo"}},
+		"workflow w0 z09 z9":         {Kind: impl.FlowHead, Name: "w0", Args: []string{"z09", "z9"}},
 		"  workflow   w1   a2b3c4d5": {Kind: impl.FlowHead, Name: "w1", Args: []string{"a2b3c4d5"}},
 	} {
 		lines, fault := impl.FlowParse(head + "\nreturn 1")
@@ -121,9 +122,12 @@ func TestBadLines(t *testing.T) {
 		"return 99999999999999999999", "return 1_0", "return 0x1", "return abcdefghi",
 		"return\ta", "return a\r", "returns a", "return é", "return \xff", "return a\x00", "\t", "\r", "retur", "5", "a",
 	} {
-		text := "workflow w a b n\n\n" + line + "\nreturn a"
-		if lines, fault := impl.FlowParse(text); fault != (impl.FlowFault{Line: 3, Code: impl.FlowBadLine}) || len(lines) != 0 {
-			t.Errorf("%q: %+v %+v", line, fault, lines)
+		// It is found ahead of what is wrong with how lines stand, and of lines that are too many.
+		for _, behind := range []string{"\nreturn a", "\nend", strings.Repeat("\nsleep 1", impl.FlowMaxLines)} {
+			text := "workflow w a b n\n\n" + line + behind
+			if lines, fault := impl.FlowParse(text); fault != (impl.FlowFault{Line: 3, Code: impl.FlowBadLine}) || len(lines) != 0 {
+				t.Errorf("%q: %+v %+v", line, fault, lines)
+			}
 		}
 	}
 }
