@@ -1,4 +1,4 @@
-// Package impl: workflows, from texts to steps.
+// Package impl: workflows, from texts to steps, and runs of them.
 package impl
 
 import (
@@ -353,9 +353,9 @@ func isNumber(word string) bool {
 	return err == nil && -FlowMaxNum <= n && n <= FlowMaxNum && strconv.Itoa(n) == word
 }
 
-func allAre(words []string, is func(word string) bool) bool {
-	for _, word := range words {
-		if !is(word) {
+func allAre[T any](items []T, is func(item T) bool) bool {
+	for _, item := range items {
+		if !is(item) {
 			return false
 		}
 	}
