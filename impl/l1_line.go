@@ -1,4 +1,4 @@
-// Package impl: workflows, from texts to steps, and runs of them.
+// Package impl: workflows, from texts to steps, runs of them, and their histories.
 package impl
 
 import (
@@ -189,9 +189,9 @@ func wordOf(kind int) string {
 	return ""
 }
 
-// kindOfWord is the kind of the lines that begin with a word, 0 if there is none.
-func kindOfWord(word string) int {
-	for kind := FlowHead; kind <= FlowNext; kind++ {
+// kindOfWord is the kind, from 1 up to the last, that has a word, 0 if there is none.
+func kindOfWord(word string, last int, wordOf func(kind int) string) int {
+	for kind := 1; kind <= last; kind++ {
 		if wordOf(kind) == word {
 			return kind
 		}
@@ -226,7 +226,7 @@ func readBehind(kind int, words []string) (FlowLine, bool) {
 
 // readLine reads one word or more as a line.
 func readLine(words []string) (FlowLine, bool) {
-	kind := kindOfWord(words[0])
+	kind := kindOfWord(words[0], FlowNext, wordOf)
 	line, ok := readBehind(kind, words[1:])
 	line.Kind = kind
 	return line, ok

@@ -27,17 +27,18 @@ func (e lineError) Error() string {
 	return "line " + strconv.Itoa(e.fault.Line) + " has fault " + strconv.Itoa(e.fault.Code)
 }
 
-// blockError is an error within a block, and the line that opens that.
-type blockError struct {
-	line int
-	err  error
+// withinError is an error within a part of what is looked at: which one, and the place where that begins.
+type withinError struct {
+	part  string
+	place int
+	err   error
 }
 
-func (e blockError) Error() string {
-	return "in the block of line " + strconv.Itoa(e.line) + ": " + e.err.Error()
+func (e withinError) Error() string {
+	return "in " + e.part + " " + strconv.Itoa(e.place) + ": " + e.err.Error()
 }
 
-func (e blockError) Unwrap() error {
+func (e withinError) Unwrap() error {
 	return e.err
 }
 
@@ -264,7 +265,7 @@ func (w *walk) inner() (part, error) {
 	first := w.at
 	done, err := w.block()
 	if err != nil {
-		return part{}, blockError{first, err}
+		return part{}, withinError{"the block of line", first, err}
 	}
 	return done, nil
 }

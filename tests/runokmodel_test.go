@@ -296,25 +296,27 @@ func (h *hands) ask(name string, many int) int {
 // spoilState changes one number, text or list somewhere in a state.
 func (m *maker) spoilState(s impl.RunState) impl.RunState {
 	s = cloneState(s)
-	for at := reflect.ValueOf(&s).Elem(); ; {
-		switch at.Kind() {
-		case reflect.Struct:
-			at = at.Field(m.Intn(at.NumField()))
-			continue
-		case reflect.Slice:
-			if n := at.Len(); n > 0 && m.Intn(4) > 0 {
-				at = at.Index(m.Intn(n))
-				continue
-			}
-			m.spoilList(at)
-		case reflect.Int:
-			at.SetInt(int64([]int{int(at.Int()) + 1, int(at.Int()) - 1, m.Intn(30), -1, 0, 1, 2, 4, 9999, -9999, 10000, -10000, 10001}[m.Intn(13)]))
-		case reflect.String:
-			at.SetString(m.of("", "0", "1", "00", "01", "000000", at.String()+"0", at.String()+"1", "a", "go", "pay", "-", "A", "2", "0 1", "abcdefgh", "abcdefghi", strings.Repeat("1", 23), strings.Repeat("-", 24), strings.Repeat(".", 25)))
-		case reflect.Bool:
-			at.SetBool(!at.Bool())
+	m.spoilSomewhere(reflect.ValueOf(&s).Elem())
+	return s
+}
+
+// spoilSomewhere changes one number, text or list in what is there.
+func (m *maker) spoilSomewhere(at reflect.Value) {
+	switch at.Kind() {
+	case reflect.Struct:
+		m.spoilSomewhere(at.Field(m.Intn(at.NumField())))
+	case reflect.Slice:
+		if n := at.Len(); n > 0 && m.Intn(4) > 0 {
+			m.spoilSomewhere(at.Index(m.Intn(n)))
+			return
 		}
-		return s
+		m.spoilList(at)
+	case reflect.Int:
+		at.SetInt(int64([]int{int(at.Int()) + 1, int(at.Int()) - 1, m.Intn(30), -1, 0, 1, 2, 4, 9999, -9999, 10000, -10000, 10001}[m.Intn(13)]))
+	case reflect.String:
+		at.SetString(m.of("", "0", "1", "00", "01", "000000", at.String()+"0", at.String()+"1", "a", "go", "pay", "-", "A", "2", "0 1", "abcdefgh", "abcdefghi", strings.Repeat("1", 23), strings.Repeat("-", 24), strings.Repeat(".", 25)))
+	case reflect.Bool:
+		at.SetBool(!at.Bool())
 	}
 }
 
@@ -441,18 +443,24 @@ func wildly[T any](m *maker) T {
 	return value
 }
 
+// anyLines are mostly a workflow, or one that is spoiled, or anything.
+func (m *maker) anyLines() []impl.FlowLine {
+	lines := m.runFlow(4 + m.Intn(26))
+	switch m.Intn(4) {
+	case 0:
+		return m.spoil(lines)
+	case 1:
+		return wildly[[]impl.FlowLine](m)
+	}
+	return lines
+}
+
 // No function panics, whatever it is given, and what it answers is right all the same.
 func TestWhateverIsGiven(t *testing.T) {
 	count := map[bool]int{}
 	for seed := range int64(8000) {
 		m := newMaker(seed)
-		lines := m.runFlow(4 + m.Intn(26))
-		switch m.Intn(4) {
-		case 0:
-			lines = m.spoil(lines)
-		case 1:
-			lines = wildly[[]impl.FlowLine](m)
-		}
+		lines := m.anyLines()
 		s, h := wildly[impl.RunState](m), wildly[impl.RunHap](m)
 		ok := modelOk(lines, s)
 		count[ok]++
