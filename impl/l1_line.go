@@ -1,4 +1,4 @@
-// Package impl: workflows, from texts to steps, runs of them, and their histories.
+// Package impl: workflows, from texts to steps, runs of them, their histories, and changes of workflows while runs live.
 package impl
 
 import (
@@ -374,6 +374,11 @@ func repeats(words []string) bool {
 // newWords are words in memory of their own, nil if there are none.
 func newWords(words []string) []string {
 	return append([]string(nil), words...)
+}
+
+func copyLine(line FlowLine) FlowLine {
+	line.Args = newWords(line.Args)
+	return line
 }
 
 // readsBack says whether a line, written, is read as it.
