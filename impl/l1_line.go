@@ -1,4 +1,5 @@
-// Package impl: workflows, from texts to steps, runs of them, their histories, and changes of workflows while runs live.
+// Package impl: workflows, from texts to steps, runs of them, their histories, changes of workflows while runs live, and a service
+// whose workers go on with runs.
 package impl
 
 import (

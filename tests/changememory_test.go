@@ -10,6 +10,7 @@ import (
 
 // Nothing is written into an argument of a change's function or behind its end, and no answer shares memory with one, or within itself.
 func TestChangesShareNoMemory(t *testing.T) {
+	t.Parallel()
 	type given struct {
 		Lines []impl.FlowLine
 		More  []impl.FlowLine

@@ -9,6 +9,7 @@ import (
 
 // P20: a changed workflow does all that each history of the one before says, with patches that are there and that are not, and stands alike.
 func TestWithinAPatch(t *testing.T) {
+	t.Parallel()
 	swapped, stand, replayed, met := map[bool]int{}, map[int]int{}, 0, 0
 	for seed := range int64(2500) {
 		m := newMaker(seed)
@@ -148,6 +149,7 @@ func smallHistories(lines []impl.FlowLine, most int) ([][]impl.HistEntry, bool) 
 
 // P22: with 1 old does the history that is told, and next does not, but each shorter beginning of it; with 0 next does all small ones; with 2 they are too many.
 func TestLooksKeepTheirPromise(t *testing.T) {
+	t.Parallel()
 	codes := map[int]int{}
 	for seed := range int64(1500) {
 		m := newMaker(seed)
@@ -192,6 +194,7 @@ func TestLooksKeepTheirPromise(t *testing.T) {
 
 // P20, P22: a workflow that is changed, and changed again, is looked at as alike, or there is too much to look at.
 func TestLooksAtChanges(t *testing.T) {
+	t.Parallel()
 	codes := map[int]int{}
 	for seed := range int64(1000) {
 		m := newMaker(seed)

@@ -8,6 +8,7 @@ import (
 
 // Nothing is written into an argument of a history's function or behind its end, and no answer shares memory with one, or within itself.
 func TestHistoriesShareNoMemory(t *testing.T) {
+	t.Parallel()
 	type given struct {
 		Lines   []impl.FlowLine
 		Args    []int

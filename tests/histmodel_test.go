@@ -266,6 +266,7 @@ func replaysAsModel(t *testing.T, lines []impl.FlowLine, list []impl.HistEntry, 
 
 // P16, P17, P18: histories, and spoiled ones, by the workflow that they are of, and by others.
 func TestHistoriesAsTheModel(t *testing.T) {
+	t.Parallel()
 	codes, others := map[int]int{}, map[int]int{}
 	for seed := range int64(2500) {
 		m := newMaker(seed)
@@ -294,6 +295,7 @@ func TestHistoriesAsTheModel(t *testing.T) {
 
 // P18: texts, near to those of histories and far from them.
 func TestTextsAsTheModel(t *testing.T) {
+	t.Parallel()
 	count := map[bool]int{}
 	for seed := range int64(4000) {
 		m := newMaker(seed)

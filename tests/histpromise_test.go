@@ -144,6 +144,7 @@ func mayBeAt(list []impl.HistEntry, found impl.HistFault) bool {
 
 // P19: a history has no fault ahead of what came last ahead of one, nor behind any time up to there.
 func TestNoFaultAhead(t *testing.T) {
+	t.Parallel()
 	faults := map[int]int{}
 	for seed := range int64(2500) {
 		m := newMaker(seed)

@@ -175,6 +175,7 @@ func (m *maker) swap(lines []impl.FlowLine) (from, to int, more, changed []impl.
 
 // P21: changes of made workflows, by places and names that may be and that may not.
 func TestSwapsAsTheModel(t *testing.T) {
+	t.Parallel()
 	count := map[bool]int{}
 	for seed := range int64(12000) {
 		m := newMaker(seed)
@@ -286,6 +287,7 @@ func (m *maker) another(lines []impl.FlowLine) []impl.FlowLine {
 
 // P22: looks at workflows by changed ones, by ones that are like them but for something, and by others.
 func TestLooksAsTheModel(t *testing.T) {
+	t.Parallel()
 	codes, late := map[int]int{}, 0
 	for seed := range int64(1500) {
 		m := newMaker(seed)

@@ -75,6 +75,7 @@ func TestPromisesOfTexts(t *testing.T) {
 }
 
 func TestPromisesOfWorkflows(t *testing.T) {
+	t.Parallel()
 	codes := map[int]int{}
 	for seed := range int64(20000) {
 		m := newMaker(seed)

@@ -123,6 +123,7 @@ func wholeValue(v reflect.Value) any {
 
 // Nothing is written into an argument or behind its end, and no answer shares memory with one, or within itself.
 func TestRunsShareNoMemory(t *testing.T) {
+	t.Parallel()
 	type given struct {
 		Lines   []impl.FlowLine
 		Args    []int

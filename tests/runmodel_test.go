@@ -494,6 +494,7 @@ func runsAsModel(t *testing.T, m *maker, lines []impl.FlowLine, many int, edits 
 }
 
 func TestRunsAsTheModel(t *testing.T) {
+	t.Parallel()
 	stands, happened := map[int]int{}, 0
 	for seed := range int64(12000) {
 		m := newMaker(seed)

@@ -360,6 +360,7 @@ func looksAsModel(t *testing.T, m *maker, lines []impl.FlowLine, s impl.RunState
 }
 
 func TestStatesByHandAsTheModel(t *testing.T) {
+	t.Parallel()
 	whole, spoiled, forks := 0, map[bool]int{}, 0
 	for seed := range int64(12000) {
 		m := newMaker(seed)
@@ -385,6 +386,7 @@ func TestStatesByHandAsTheModel(t *testing.T) {
 }
 
 func TestStatesOfRunsAsTheModel(t *testing.T) {
+	t.Parallel()
 	stands, spoiled := map[int]int{}, map[bool]int{}
 	for seed := range int64(4000) {
 		m := newMaker(seed)
@@ -457,6 +459,7 @@ func (m *maker) anyLines() []impl.FlowLine {
 
 // No function panics, whatever it is given, and what it answers is right all the same.
 func TestWhateverIsGiven(t *testing.T) {
+	t.Parallel()
 	count := map[bool]int{}
 	for seed := range int64(8000) {
 		m := newMaker(seed)

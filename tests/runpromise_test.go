@@ -54,6 +54,7 @@ func isBusy(s impl.RunState) bool {
 
 // P9: whichever ask is answered first, the run stands alike in the end.
 func TestOrderOfAnswers(t *testing.T) {
+	t.Parallel()
 	alike, waiting, many := map[int]int{}, 0, 0
 	for seed := range int64(6000) {
 		m := newMaker(seed)
@@ -115,6 +116,7 @@ func TestOrderOfAllAnswers(t *testing.T) {
 
 // P10: no two asks have one key, but that what is undone has that of what was done, with a stroke.
 func TestKeys(t *testing.T) {
+	t.Parallel()
 	asked, undone := 0, 0
 	for seed := range int64(6000) {
 		l := newMaker(seed).live(t, 60)
@@ -150,6 +152,7 @@ func TestKeys(t *testing.T) {
 
 // P11: a run that is cancelled asks for all of Undo, the last first, and is stopped then, however that went.
 func TestCancelled(t *testing.T) {
+	t.Parallel()
 	undone := map[int]int{}
 	for seed := range int64(6000) {
 		m := newMaker(seed)
@@ -186,6 +189,7 @@ func TestCancelled(t *testing.T) {
 
 // P12: what is ok stays so, what stands stays, what is live waits for something, and with a code nothing changes.
 func TestOkStaysOk(t *testing.T) {
+	t.Parallel()
 	codes := map[int]int{}
 	for seed := range int64(4000) {
 		m := newMaker(seed)
@@ -210,6 +214,7 @@ func TestOkStaysOk(t *testing.T) {
 
 // P13: a fold of all is a fold of the first part, and then what is left happens.
 func TestFoldsOfParts(t *testing.T) {
+	t.Parallel()
 	parts := 0
 	for seed := range int64(1500) {
 		m := newMaker(seed)
@@ -270,6 +275,7 @@ func (l lived) again(t *testing.T, patches []string) []impl.RunState {
 
 // P14: done again with the patches that it had, a run comes just as far; without any, none is there.
 func TestPatchesAgain(t *testing.T) {
+	t.Parallel()
 	marked := 0
 	for seed := range int64(4000) {
 		l := newMaker(seed).live(t, 30)
@@ -299,6 +305,7 @@ func TestPatchesAgain(t *testing.T) {
 
 // P15: there is a board of each state that is ok, and of no other; it has a line for each number, thread and ask.
 func TestBoardsOfAllStates(t *testing.T) {
+	t.Parallel()
 	boards := 0
 	for seed := range int64(4000) {
 		m := newMaker(seed)

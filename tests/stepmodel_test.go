@@ -69,6 +69,7 @@ func modelSteps(lines []impl.FlowLine) []impl.FlowStep {
 }
 
 func TestStepsByTheirPlaces(t *testing.T) {
+	t.Parallel()
 	many := 0
 	for seed := range int64(20000) {
 		m := newMaker(seed)

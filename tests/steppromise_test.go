@@ -247,6 +247,7 @@ func partsAreApart(t *testing.T, steps []impl.FlowStep) int {
 }
 
 func TestAllWaysThroughSteps(t *testing.T) {
+	t.Parallel()
 	gone, forks := 0, 0
 	for seed := range int64(6000) {
 		m := newMaker(seed)
@@ -265,6 +266,7 @@ func TestAllWaysThroughSteps(t *testing.T) {
 
 // All that is made, right or not: where there are steps, parts are apart.
 func TestStepsOfWhatIsNotMended(t *testing.T) {
+	t.Parallel()
 	refused, forks := 0, 0
 	for seed := range int64(20000) {
 		m := newMaker(seed)
